@@ -27,24 +27,3 @@ func Check(query string) (Errno, int) {
 	_, f := parse(query)
 	return f.err, f.at
 }
-
-// View is what a query is worth. Make it by Start.
-type View struct{}
-
-// Start makes a view without rows (P4).
-func Start(query string) (*View, Errno, int) { return nil, OK, 0 }
-
-// Update lets a row come or go; it tells what is other now (P6).
-func (v *View) Update(rel string, by int, values ...int) ([]Row, Errno) { return nil, OK }
-
-// Rows tells what the query is worth (P5).
-func (v *View) Rows() []Row { return nil }
-
-// Total tells how often rows are there that begin so (P7).
-func (v *View) Total(values ...int) (int, Errno) { return 0, OK }
-
-// Relation tells a relation's rows (P8).
-func (v *View) Relation(rel string) ([]Row, Errno) { return nil, OK }
-
-// Clear empties relations; it tells what is other now (P8).
-func (v *View) Clear(rels ...string) ([]Row, Errno) { return nil, OK }

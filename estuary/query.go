@@ -13,13 +13,14 @@ const (
 // only behind the last atom it is known which of them no atom has.
 type query struct {
 	head  []piece
-	vars  []string // of the atoms, each once
+	vars  []string // of the atoms, each once; a var's number is its place here
 	atoms []atom
+	edges []edge // of the tree that the atoms make
 }
 
 type atom struct {
 	rel   string
-	terms int
+	terms pattern
 	vars  varSet
 }
 
@@ -38,23 +39,31 @@ func parse(text string) (query, fault) {
 	if !r.readQuery() {
 		return query{}, r.fault
 	}
-	if f := r.query.wholeFault(); f.err != OK {
+	q := r.query
+	if f := q.headFault(); f.err != OK {
 		return query{}, f
 	}
-	return r.query, fault{}
+	edges, ok := makeTree(q.varSets())
+	if !ok {
+		return query{}, fault{err: ErrCyclic}
+	}
+	q.edges = edges
+	return q, fault{}
 }
 
-// wholeFault is the fault that shows only once all of the query is read.
-func (q *query) wholeFault() fault {
+// headFault is the fault that the head shows only once all atoms are read.
+func (q *query) headFault() fault {
 	for _, v := range q.head {
-		if !slices.Contains(q.vars, v.text) {
+		if q.varNumber(v.text) < 0 {
 			return fault{err: ErrName, at: v.at}
 		}
 	}
-	if !makeTree(q.varSets()) {
-		return fault{err: ErrCyclic}
-	}
 	return fault{}
+}
+
+// varNumber is below 0, if no atom has the var.
+func (q *query) varNumber(name string) int {
+	return slices.Index(q.vars, name)
 }
 
 func (q *query) varSets() []varSet {
@@ -71,5 +80,5 @@ func (q *query) headHas(name string) bool {
 
 // hasOtherShape tells whether an atom of q has a's rel with another number of terms.
 func (q *query) hasOtherShape(a atom) bool {
-	return slices.ContainsFunc(q.atoms, func(b atom) bool { return b.rel == a.rel && b.terms != a.terms })
+	return slices.ContainsFunc(q.atoms, func(b atom) bool { return b.rel == a.rel && len(b.terms) != len(a.terms) })
 }

@@ -1,7 +1,5 @@
 package estuary
 
-import "slices"
-
 // reader goes through a text from the left. Its read methods answer false at
 // the first fault and leave it in fault: nothing behind that one counts.
 type reader struct {
@@ -71,11 +69,15 @@ func (r *reader) readTerms(a *atom) bool {
 // readTerm looks at the number of terms ahead of what stands there, because a
 // term too many is told whatever it is.
 func (r *reader) readTerm(a *atom) bool {
-	if a.terms == maxTerms {
+	if len(a.terms) == maxTerms {
 		return r.fail(ErrMany, r.now.at)
 	}
-	a.terms++
-	return r.take(kindNumber) || r.readAtomVar(a)
+	word := r.now.text
+	if r.take(kindNumber) {
+		a.terms = append(a.terms, term{number: smallNumber(word)})
+		return true
+	}
+	return r.readAtomVar(a)
 }
 
 func (r *reader) readAtomVar(a *atom) bool {
@@ -83,7 +85,7 @@ func (r *reader) readAtomVar(a *atom) bool {
 	if !r.want(kindVar) {
 		return false
 	}
-	number := slices.Index(r.query.vars, v.text)
+	number := r.query.varNumber(v.text)
 	if number < 0 {
 		number = len(r.query.vars)
 		if number == maxVars {
@@ -91,6 +93,7 @@ func (r *reader) readAtomVar(a *atom) bool {
 		}
 		r.query.vars = append(r.query.vars, v.text)
 	}
+	a.terms = append(a.terms, term{isVar: true, number: number})
 	a.vars |= 1 << number
 	return true
 }

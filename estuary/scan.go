@@ -98,6 +98,15 @@ func isNumber(word string) bool {
 	return true
 }
 
+// smallNumber takes a word that isNumber: it has too few digits to be too great.
+func smallNumber(word string) int {
+	n := 0
+	for i := range len(word) {
+		n = 10*n + int(word[i]-'0')
+	}
+	return n
+}
+
 // isName tells whether a word is a var or a rel; which, its first letter tells.
 func isName(word string) bool {
 	if len(word) > maxName || isDigit(word[0]) {

@@ -5,49 +5,57 @@ import "slices"
 // varSet has bit i set, if it has var i of a query's atoms.
 type varSet uint8
 
-// makeTree tells whether atoms with these vars make a tree. Which atom goes
-// first does not matter, so it never tries another order: another atom that
-// could go still can, unless each of the two was the only one that let the
-// other go; then they share the same vars, and either may stay for both.
-func makeTree(sets []varSet) bool {
-	left := slices.Clone(sets)
+func (s varSet) has(i int) bool { return s>>i&1 == 1 }
+
+// edge joins an atom that is taken away to another, still there, that has all
+// vars which the first one shares.
+type edge struct{ gone, keeper int }
+
+// makeTree takes away atoms with these vars till one is left, and tells whether
+// that can be done. Which atom goes first does not matter, so it never tries
+// another order: another atom that could go still can, unless each of the two
+// was the only one that let the other go; then they share the same vars, and
+// either may stay for both.
+func makeTree(sets []varSet) ([]edge, bool) {
+	var edges []edge
+	left := numbersBelow(len(sets))
 	for len(left) > 1 {
-		i := firstToGo(left)
-		if i < 0 {
-			return false
+		e, ok := firstToGo(sets, left)
+		if !ok {
+			return nil, false
 		}
-		left = slices.Delete(left, i, i+1)
+		edges = append(edges, e)
+		left = slices.DeleteFunc(left, func(i int) bool { return i == e.gone })
 	}
-	return true
+	return edges, true
 }
 
-func firstToGo(sets []varSet) int {
-	for i := range sets {
-		if canGo(sets, i) {
-			return i
-		}
+func numbersBelow(n int) []int {
+	var numbers []int
+	for i := range n {
+		numbers = append(numbers, i)
 	}
-	return -1
+	return numbers
 }
 
-// canGo tells whether another atom has all vars that atom i shares.
-func canGo(sets []varSet, i int) bool {
-	shared := sets[i] & allBut(sets, i)
-	for j, set := range sets {
-		if j != i && shared&^set == 0 {
-			return true
+func firstToGo(sets []varSet, left []int) (edge, bool) {
+	for _, i := range left {
+		for _, j := range left {
+			if j != i && sharedVars(sets, left, i)&^sets[j] == 0 {
+				return edge{gone: i, keeper: j}, true
+			}
 		}
 	}
-	return false
+	return edge{}, false
 }
 
-// allBut is the vars of all atoms but atom i.
-func allBut(sets []varSet, i int) varSet {
-	var all varSet
-	for j, set := range sets {
+// sharedVars is those vars of atom i that any other one still there has.
+func sharedVars(sets []varSet, left []int, i int) varSet {
+	var others varSet
+	for _, j := range left {
 		if j != i {
-			all |= set
+			others |= sets[j]
 		}
 	}
-	return all
+	return sets[i] & others
 }
