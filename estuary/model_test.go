@@ -2,6 +2,7 @@ package estuary_test
 
 import (
 	"fmt"
+	"maps"
 	"regexp"
 	"slices"
 	"strconv"
@@ -10,7 +11,7 @@ import (
 	"estuary/estuary"
 )
 
-// The model is P4 to P6 told a second time and in another way: it lays every
+// The model is P4 to P8 told a second time and in another way: it lays every
 // row beside every row, and works out all of it anew at each call.
 type model struct {
 	head  []string
@@ -54,7 +55,7 @@ func (m *model) terms(rel string) int {
 	return 0
 }
 
-func (m *model) worth() []estuary.Row {
+func (m *model) Rows() []estuary.Row {
 	var sums []estuary.Row
 	m.ways(m.atoms, map[string]int{}, 1, func(values []int, by int) {
 		sums = addRow(sums, values, by)
@@ -112,7 +113,7 @@ func addRow(rows []estuary.Row, values []int, by int) []estuary.Row {
 	return rows
 }
 
-func (m *model) update(rel string, by int, values []int) ([]estuary.Row, estuary.Errno) {
+func (m *model) Update(rel string, by int, values ...int) ([]estuary.Row, estuary.Errno) {
 	old, there := m.rows[rel]
 	switch {
 	case !there:
@@ -129,15 +130,63 @@ func (m *model) update(rel string, by int, values []int) ([]estuary.Row, estuary
 	if len(rows) > 12 {
 		return nil, estuary.ErrMany
 	}
-	other := m.worth()
+	return m.otherBy(func() { m.rows[rel] = rows }), estuary.OK
+}
+
+// otherBy tells what is other behind a change.
+func (m *model) otherBy(change func()) []estuary.Row {
+	other := m.Rows()
 	for i := range other {
 		other[i].By = -other[i].By
 	}
-	m.rows[rel] = rows
-	for _, row := range m.worth() {
+	change()
+	for _, row := range m.Rows() {
 		other = addRow(other, row.Values, row.By)
 	}
-	return other, estuary.OK
+	return other
+}
+
+func (m *model) Total(values ...int) (int, estuary.Errno) {
+	if len(values) > len(m.head) {
+		return 0, estuary.ErrShape
+	}
+	total := 0
+	for _, row := range m.Rows() {
+		if slices.Equal(row.Values[:len(values)], values) {
+			total += row.By
+		}
+	}
+	return total, estuary.OK
+}
+
+func (m *model) Relation(rel string) ([]estuary.Row, estuary.Errno) {
+	rows, there := m.rows[rel]
+	if !there {
+		return nil, estuary.ErrName
+	}
+	return rows, estuary.OK
+}
+
+func (m *model) Clear(rels ...string) ([]estuary.Row, estuary.Errno) {
+	if len(rels) == 0 {
+		rels = slices.Collect(maps.Keys(m.rows))
+	}
+	for _, rel := range rels {
+		if _, there := m.rows[rel]; !there {
+			return nil, estuary.ErrName
+		}
+	}
+	return m.otherBy(func() {
+		for _, rel := range rels {
+			m.rows[rel] = nil
+		}
+	}), estuary.OK
+}
+
+// copied is a model that goes on by itself. Lists of rows are never changed in
+// place, so the two may share them.
+func (m *model) copied() *model {
+	return &model{head: m.head, atoms: m.atoms, rows: maps.Clone(m.rows)}
 }
 
 func told(rows []estuary.Row, err estuary.Errno) string {

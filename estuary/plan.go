@@ -86,20 +86,20 @@ func walkFrom(links []link, atom, cameFrom int) []int {
 	return walk
 }
 
-// tell makes rows of how often the head's vars are worth this or that.
-func (p *plan) tell(counts map[assignment]int) []Row {
-	var rows []Row
-	for vars, by := range counts {
-		rows = append(rows, Row{Values: p.headValues(vars), By: by})
-	}
-	slices.SortFunc(rows, func(a, b Row) int { return slices.Compare(a.Values, b.Values) })
-	return rows
-}
-
 func (p *plan) headValues(vars assignment) []int {
 	values := make([]int, len(p.head))
 	for i, number := range p.head {
 		values[i] = vars[number]
 	}
 	return values
+}
+
+// headBegins tells whether the head's first vars are worth these values.
+func (p *plan) headBegins(vars assignment, values []int) bool {
+	for i, n := range values {
+		if vars[p.head[i]] != n {
+			return false
+		}
+	}
+	return true
 }

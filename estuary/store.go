@@ -1,5 +1,7 @@
 package estuary
 
+import "slices"
+
 const (
 	maxValue  = 999
 	maxBy     = 9
@@ -61,4 +63,14 @@ func add[K comparable](counts map[K]int, key K, by int) {
 	if counts[key] == 0 {
 		delete(counts, key)
 	}
+}
+
+// tell makes rows, rising, of how often each key is there.
+func tell[K comparable](counts map[K]int, values func(K) []int) []Row {
+	var rows []Row
+	for key, by := range counts {
+		rows = append(rows, Row{Values: values(key), By: by})
+	}
+	slices.SortFunc(rows, func(a, b Row) int { return slices.Compare(a.Values, b.Values) })
+	return rows
 }

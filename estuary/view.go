@@ -1,7 +1,13 @@
 package estuary
 
-// View is what a query is worth. Make it by Start.
+import (
+	"slices"
+	"sync"
+)
+
+// View is what a query is worth. Make it by Start. Any goroutines may use it.
 type View struct {
+	lock sync.Mutex // held for the whole of a call: so calls come one after the other
 	plan
 	store
 }
@@ -18,6 +24,8 @@ func Start(query string) (*View, Errno, int) {
 
 // Update lets a row come or go; it tells what is other now (P6).
 func (v *View) Update(rel string, by int, values ...int) ([]Row, Errno) {
+	v.lock.Lock()
+	defer v.lock.Unlock()
 	relation := v.relationNumber(rel)
 	if relation < 0 {
 		return nil, ErrName
@@ -38,7 +46,7 @@ func (v *View) Update(rel string, by int, values ...int) ([]Row, Errno) {
 		add(other, vars, by)
 		add(v.worth, vars, by)
 	})
-	return v.tell(other), OK
+	return tell(other, v.headValues), OK
 }
 
 func areValues(values []int) bool {
@@ -51,16 +59,64 @@ func areValues(values []int) bool {
 }
 
 // Rows tells what the query is worth (P5).
-func (v *View) Rows() []Row { return v.tell(v.worth) }
+func (v *View) Rows() []Row {
+	v.lock.Lock()
+	defer v.lock.Unlock()
+	return tell(v.worth, v.headValues)
+}
 
 // Total tells how often rows are there that begin so (P7).
-func (v *View) Total(values ...int) (int, Errno) { return 0, OK }
+func (v *View) Total(values ...int) (int, Errno) {
+	v.lock.Lock()
+	defer v.lock.Unlock()
+	if len(values) > len(v.head) {
+		return 0, ErrShape
+	}
+	total := 0
+	for vars, by := range v.worth {
+		if v.headBegins(vars, values) {
+			total += by
+		}
+	}
+	return total, OK
+}
 
 // Relation tells a relation's rows (P8).
-func (v *View) Relation(rel string) ([]Row, Errno) { return nil, OK }
+func (v *View) Relation(rel string) ([]Row, Errno) {
+	v.lock.Lock()
+	defer v.lock.Unlock()
+	relation := v.relationNumber(rel)
+	if relation < 0 {
+		return nil, ErrName
+	}
+	return tell(v.rows[relation], func(row tuple) []int {
+		return slices.Clone(row[:v.relations[relation].terms])
+	}), OK
+}
 
-// Clear empties relations; it tells what is other now (P8).
-func (v *View) Clear(rels ...string) ([]Row, Errno) { return nil, OK }
+// Clear empties relations; it tells what is other now (P8). Every way has a row
+// of each relation: so where any of them is emptied, no way is left, and all
+// that the query was worth goes.
+func (v *View) Clear(rels ...string) ([]Row, Errno) {
+	v.lock.Lock()
+	defer v.lock.Unlock()
+	for _, rel := range rels {
+		if v.relationNumber(rel) < 0 {
+			return nil, ErrName
+		}
+	}
+	for i, r := range v.relations {
+		if len(rels) == 0 || slices.Contains(rels, r.name) {
+			v.empty(i)
+		}
+	}
+	other := tell(v.worth, v.headValues)
+	for i := range other {
+		other[i].By = -other[i].By
+	}
+	clear(v.worth)
+	return other, OK
+}
 
 // change lets a row be there by times oftener, and hands on what the head's vars
 // are worth in every way that has it. An atom's indexes learn of the row only
@@ -98,6 +154,16 @@ func (v *View) addToIndexes(atom int, vars assignment, by int) {
 	for i, l := range v.links {
 		if l.to == atom {
 			v.indexes[i].add(vars.only(l.shared), vars, by)
+		}
+	}
+}
+
+// empty takes a relation's rows away, and all that the indexes have of them.
+func (v *View) empty(relation int) {
+	clear(v.rows[relation])
+	for i, l := range v.links {
+		if slices.Contains(v.relations[relation].atoms, l.to) {
+			clear(v.indexes[i])
 		}
 	}
 }

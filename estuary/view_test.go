@@ -4,7 +4,6 @@ import (
 	"fmt"
 	"math"
 	"math/rand/v2"
-	"slices"
 	"strings"
 	"testing"
 	"unsafe"
@@ -30,23 +29,14 @@ func start(t *testing.T, query string) *estuary.View {
 	return v
 }
 
-// runCalls makes the calls one after the other, and holds the model against the
-// table too.
+// runCalls makes the calls one after the other, then asks for Rows.
 func runCalls(t *testing.T, query string, calls []call, rows string) {
 	t.Helper()
-	v, m := start(t, query), newModel(query)
-	for i, c := range calls {
-		want := fmt.Sprint(c.want, " ", int(c.err))
-		if got := told(v.Update(c.rel, c.by, c.values...)); got != want {
-			t.Errorf("%q: call %d: Update(%q, %d, %v) = %s, want %s", query, i, c.rel, c.by, c.values, got, want)
-		}
-		if got := told(m.update(c.rel, c.by, c.values)); got != want {
-			t.Errorf("%q: call %d: the model says %s, want %s", query, i, got, want)
-		}
+	var steps []expected
+	for _, c := range calls {
+		steps = append(steps, expected{update(c.rel, c.by, c.values...), c.want, 0, c.err})
 	}
-	if got := fmt.Sprint(v.Rows()); got != rows {
-		t.Errorf("%q: Rows() = %s, want %s", query, got, rows)
-	}
+	runSteps(t, query, append(steps, expected{allRows(), rows, 0, estuary.OK}))
 }
 
 func TestP4Errors(t *testing.T) {
@@ -95,15 +85,6 @@ func TestP4WithoutRows(t *testing.T) {
 			}
 		}
 	}
-}
-
-func TestP6Example(t *testing.T) {
-	runCalls(t, "(x, z) : R(x, y), S(y, z).", []call{
-		{"R", 2, []int{1, 5}, "[]", estuary.OK},
-		{"S", 3, []int{5, 7}, "[{[1 7] 6}]", estuary.OK},
-		{"R", 1, []int{4, 5}, "[{[4 7] 3}]", estuary.OK},
-		{"S", -1, []int{5, 7}, "[{[1 7] -2} {[4 7] -1}]", estuary.OK},
-	}, "[{[1 7] 4} {[4 7] 2}]")
 }
 
 func TestP5Join(t *testing.T) {
@@ -231,7 +212,7 @@ func TestP6WhichError(t *testing.T) {
 		if len(rows) != 0 || err != want {
 			t.Errorf("Update(%q, %d, %v) = %v, %d, want %d", rel, by, values, rows, err, want)
 		}
-		if got := told(m.update(rel, by, values)); got != told(rows, err) {
+		if got := told(m.Update(rel, by, values...)); got != told(rows, err) {
 			t.Errorf("Update(%q, %d, %v): the model says %s", rel, by, values, got)
 		}
 	}
@@ -352,119 +333,6 @@ func TestP6PlacesOfEachRelation(t *testing.T) {
 			}
 		}
 	}
-}
-
-// randomStep is an Update of some query: most often a good one, on few values
-// so that rows meet, now and then a wrong one.
-func randomStep(random *rand.Rand, m *model) (string, int, []int) {
-	rel := m.atoms[random.IntN(len(m.atoms))].rel
-	values := make([]int, m.terms(rel))
-	for i := range values {
-		values[i] = []int{0, 1, 2, 7, 999}[random.IntN(5)]
-	}
-	by := random.IntN(19) - 9
-	switch random.IntN(40) {
-	case 0:
-		rel = []string{"", "Q", "R", "S", "x"}[random.IntN(5)]
-	case 1:
-		values = make([]int, random.IntN(5))
-	case 2:
-		by = []int{10, -10, math.MinInt, math.MaxInt}[random.IntN(4)]
-	case 3:
-		values[random.IntN(len(values))] = []int{-1, 1000, math.MinInt, math.MaxInt}[random.IntN(4)]
-	}
-	return rel, by, values
-}
-
-// spoil does to an answer and to a list that was handed in what a caller may do.
-func spoil(rows []estuary.Row, values []int) {
-	for i := range values {
-		values[i] = -5
-	}
-	for i, row := range rows {
-		for j := range row.Values {
-			row.Values[j] = -6
-		}
-		rows[i] = estuary.Row{By: -7}
-	}
-}
-
-// ownLists tells whether the lists of an answer share no memory with each other.
-func ownLists(rows []estuary.Row) bool {
-	before := fmt.Sprint(rows)
-	for _, row := range rows {
-		_ = append(row.Values, -8)
-	}
-	return fmt.Sprint(rows) == before
-}
-
-// Views of random queries, two of each query, against the model at each call.
-func TestP6AnyCalls(t *testing.T) {
-	random := rand.New(rand.NewPCG(9, 10))
-	seen := map[estuary.Errno]int{}
-	for done := 0; done < 1500; {
-		query := randomQuery(random)
-		if check(query).err != estuary.OK {
-			continue
-		}
-		query = withAnyHead(random, query)
-		done++
-		views := []*estuary.View{start(t, query), start(t, query)}
-		models := []*model{newModel(query), newModel(query)}
-		for range 60 {
-			one := random.IntN(2)
-			seen[anyCall(t, random, query, views[one], models[one])]++
-			if t.Failed() {
-				return
-			}
-		}
-		for i, v := range views {
-			if got, want := fmt.Sprint(v.Rows()), fmt.Sprint(models[i].worth()); got != want {
-				t.Fatalf("%q: Rows() = %s, want %s", query, got, want)
-			}
-		}
-	}
-	for _, err := range []estuary.Errno{estuary.OK, estuary.ErrName, estuary.ErrShape, estuary.ErrRange, estuary.ErrMany} {
-		if seen[err] < 100 {
-			t.Errorf("only %d of the calls have error %d", seen[err], err)
-		}
-	}
-}
-
-// withAnyHead puts any of the atoms' vars into a query's head, in any order.
-func withAnyHead(random *rand.Rand, query string) string {
-	_, body, _ := strings.Cut(query, ":")
-	names := headPattern.FindAllString(relPattern.ReplaceAllString(body, ""), -1)
-	slices.Sort(names)
-	names = slices.Compact(names)
-	random.Shuffle(len(names), func(i, j int) { names[i], names[j] = names[j], names[i] })
-	return "(" + strings.Join(names[:random.IntN(len(names)+1)], ", ") + ") :" + body
-}
-
-func anyCall(t *testing.T, random *rand.Rand, query string, v *estuary.View, m *model) estuary.Errno {
-	t.Helper()
-	rel, by, values := randomStep(random, m)
-	want := told(m.update(rel, by, values))
-	handed := slices.Clone(values)
-	rows, err := v.Update(rel, by, handed...)
-	if got := told(rows, err); got != want {
-		t.Errorf("%q: Update(%q, %d, %v) = %s, want %s", query, rel, by, values, got, want)
-	}
-	if !slices.Equal(handed, values) {
-		t.Errorf("%q: Update(%q, %d, %v) changed its list", query, rel, by, values)
-	}
-	if !ownLists(rows) {
-		t.Errorf("%q: Update(%q, %d, %v): the lists of the answer share memory", query, rel, by, values)
-	}
-	spoil(rows, handed)
-	if random.IntN(8) == 0 {
-		rows := v.Rows()
-		if !ownLists(rows) {
-			t.Errorf("%q: the lists of Rows share memory", query)
-		}
-		spoil(rows, nil)
-	}
-	return err
 }
 
 // A caller may make a string of bytes that it changes later: a view that kept
